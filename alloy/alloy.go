@@ -1,11 +1,14 @@
 // Package alloy is layer 1: mixtures of metals, the cheapest one that deserves a touch, and weights as proof of it.
 package alloy
 
-import "porringer/api"
+import (
+	"porringer/api"
+	"porringer/kit"
+)
 
 // CheckMetals reports whether metals are valid. (P1.1)
 func CheckMetals(metals []api.AlloyMetal) api.Errno {
-	if !within(1, api.MaxAlloyMetals, int64(len(metals))) {
+	if !kit.Within(1, api.MaxAlloyMetals, len(metals)) {
 		return api.ErrMany
 	}
 	for _, m := range metals {
@@ -18,7 +21,7 @@ func CheckMetals(metals []api.AlloyMetal) api.Errno {
 
 // CheckTouch reports whether a touch is valid. (P1.1)
 func CheckTouch(touch api.AlloyTouch) api.Errno {
-	if !within(0, api.MaxAlloyContent, touch.Lead, touch.Copper) {
+	if !kit.Within(0, api.MaxAlloyContent, touch.Lead, touch.Copper) {
 		return api.ErrRange
 	}
 	return api.OK
@@ -79,7 +82,7 @@ func Least(metals []api.AlloyMetal, touch api.AlloyTouch, sure bool) (api.Ratio,
 	if e != api.OK {
 		return api.Ratio{}, e
 	}
-	m, found := best(melt.corners, melt.cheaper)
+	m, found := kit.Best(melt.corners, melt.cheaper)
 	if !found {
 		return api.Ratio{}, api.ErrAlloy
 	}
@@ -92,7 +95,7 @@ func Cheapest(metals []api.AlloyMetal, touch api.AlloyTouch, sure bool) ([]int64
 	if e != api.OK {
 		return nil, e
 	}
-	m, found := best(melt.corners, melt.cheaper)
+	m, found := kit.Best(melt.corners, melt.cheaper)
 	if !found {
 		return nil, api.ErrAlloy
 	}
@@ -105,7 +108,7 @@ func CheckProof(metals []api.AlloyMetal, touch api.AlloyTouch, sure bool, p api.
 	if e != api.OK {
 		return api.Ratio{}, e
 	}
-	if !within(1, api.MaxAlloyDen, p.Den) || !validWeights(p) {
+	if !kit.Within(1, api.MaxAlloyDen, p.Den) || !validWeights(p) {
 		return api.Ratio{}, api.ErrRange
 	}
 	if !melt.holds(p) {
@@ -159,16 +162,16 @@ func Share(metals []api.AlloyMetal, touch api.AlloyTouch, sure bool, metal int) 
 	if e != api.OK {
 		return api.Ratio{}, api.Ratio{}, e
 	}
-	if !within(0, int64(len(metals)-1), int64(metal)) {
+	if !kit.Within(0, len(metals)-1, metal) {
 		return api.Ratio{}, api.Ratio{}, api.ErrArg
 	}
-	least, found := best(melt.corners, func(one, other mixture) bool {
+	least, found := kit.Best(melt.corners, func(one, other mixture) bool {
 		return below(melt.share(one, metal), melt.share(other, metal))
 	})
 	if !found {
 		return api.Ratio{}, api.Ratio{}, api.ErrAlloy
 	}
-	most, _ := best(melt.corners, func(one, other mixture) bool {
+	most, _ := kit.Best(melt.corners, func(one, other mixture) bool {
 		return below(melt.share(other, metal), melt.share(one, metal))
 	})
 	return melt.share(least, metal), melt.share(most, metal), api.OK

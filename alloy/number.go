@@ -6,16 +6,6 @@ import (
 	"porringer/api"
 )
 
-// within reports whether all numbers are from lo to hi.
-func within(lo, hi int64, numbers ...int64) bool {
-	for _, n := range numbers {
-		if n < lo || n > hi {
-			return false
-		}
-	}
-	return true
-}
-
 // divisor returns the greatest common divisor of numbers; 1 if all are 0, so that one can divide by it.
 func divisor(numbers ...int64) int64 {
 	var d int64
@@ -36,18 +26,6 @@ func ratio(num, den int64) api.Ratio {
 // below reports whether one is less than other.
 func below(one, other api.Ratio) bool {
 	return one.Num*other.Den < other.Num*one.Den
-}
-
-// best returns the first of several than which none is better, and false if there are none.
-func best[T any](several iter.Seq[T], better func(one, other T) bool) (T, bool) {
-	var kept T
-	found := false
-	for one := range several {
-		if !found || better(one, kept) {
-			kept, found = one, true
-		}
-	}
-	return kept, found
 }
 
 // triples yields all strictly increasing triples of the numbers below n, in lexicographic order.

@@ -1,6 +1,9 @@
 package alloy
 
-import "porringer/api"
+import (
+	"porringer/api"
+	"porringer/kit"
+)
 
 // What the columns of sums are of.
 const (
@@ -29,11 +32,11 @@ type pot struct {
 }
 
 func validMetal(m api.AlloyMetal) bool {
-	return within(0, api.MaxAlloyPrice, m.Price) && validContent(m.Lead) && validContent(m.Copper)
+	return kit.Within(0, api.MaxAlloyPrice, m.Price) && validContent(m.Lead) && validContent(m.Copper)
 }
 
 func validContent(r api.Range) bool {
-	return within(0, api.MaxAlloyContent, r.Lo, r.Hi) && r.Lo <= r.Hi
+	return kit.Within(0, api.MaxAlloyContent, r.Lo, r.Hi) && r.Lo <= r.Hi
 }
 
 // newStock returns the stock of valid metals.
@@ -68,7 +71,7 @@ func (s stock) checkMixture(parts []int64) api.Errno {
 	if len(parts) != len(s.units) {
 		return api.ErrEqual
 	}
-	if !within(0, api.MaxAlloyPart, parts...) {
+	if !kit.Within(0, api.MaxAlloyPart, parts...) {
 		return api.ErrRange
 	}
 	var total sums

@@ -6,12 +6,13 @@ import (
 	"slices"
 
 	"porringer/api"
+	"porringer/kit"
 )
 
 // validWeights reports whether all numbers of a proof but Den are as described.
 func validWeights(proof api.AlloyProof) bool {
-	return within(-api.MaxAlloyWeight, api.MaxAlloyWeight, proof.Base) &&
-		within(0, api.MaxAlloyWeight, proof.Lead, proof.Copper)
+	return kit.Within(-api.MaxAlloyWeight, api.MaxAlloyWeight, proof.Base) &&
+		kit.Within(0, api.MaxAlloyWeight, proof.Lead, proof.Copper)
 }
 
 // factors returns by what a proof multiplies the columns of sums.
@@ -77,7 +78,7 @@ func (p pot) neverProof() api.AlloyProof {
 // strongest returns the best one of some proofs; of equal ones always the same, in whatever order the map has them.
 func strongest(values map[api.AlloyProof]int64, better func(one, other api.AlloyProof) bool) api.AlloyProof {
 	proofs := slices.SortedFunc(maps.Keys(values), compareProofs)
-	proof, _ := best(slices.Values(proofs), better)
+	proof, _ := kit.Best(slices.Values(proofs), better)
 	return proof
 }
 
