@@ -56,7 +56,7 @@ func Ends(metals []api.AlloyMetal, mixture []int64, copper bool) (api.Ratio, api
 	var ends [2]api.Ratio
 	for i, s := range [2]stock{least, most} {
 		s.weigh(takeOver(mixture), &total)
-		ends[i] = ratio(total[column], total[partsColumn])
+		ends[i] = kit.Ratio(total[column], total[partsColumn])
 	}
 	return ends[0], ends[1], api.OK
 }
@@ -114,7 +114,7 @@ func CheckProof(metals []api.AlloyMetal, touch api.AlloyTouch, sure bool, p api.
 	if !melt.holds(p) {
 		return api.Ratio{}, api.ErrSum
 	}
-	return ratio(melt.value(p), p.Den), api.OK
+	return kit.Ratio(melt.value(p), p.Den), api.OK
 }
 
 // Proof returns a proof of the least cost. (P1.5)
@@ -166,13 +166,13 @@ func Share(metals []api.AlloyMetal, touch api.AlloyTouch, sure bool, metal int) 
 		return api.Ratio{}, api.Ratio{}, api.ErrArg
 	}
 	least, found := kit.Best(melt.corners, func(one, other mixture) bool {
-		return below(melt.share(one, metal), melt.share(other, metal))
+		return kit.Below(melt.share(one, metal), melt.share(other, metal))
 	})
 	if !found {
 		return api.Ratio{}, api.Ratio{}, api.ErrAlloy
 	}
 	most, _ := kit.Best(melt.corners, func(one, other mixture) bool {
-		return below(melt.share(other, metal), melt.share(one, metal))
+		return kit.Below(melt.share(other, metal), melt.share(one, metal))
 	})
 	return melt.share(least, metal), melt.share(most, metal), api.OK
 }

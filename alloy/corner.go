@@ -1,5 +1,7 @@
 package alloy
 
+import "porringer/kit"
+
 // room is by how much less lead, and by how much more copper, than is asked for a part has.
 type room [2]int64
 
@@ -46,7 +48,7 @@ func (p pot) rooms() []room {
 // above 0; if there is a part below 0 the rooms cannot be mixed so.
 func evenOut(a, b, c room) [3]int64 {
 	parts := [3]int64{cross(b, c), cross(c, a), cross(a, b)}
-	d := divisor(parts[:]...)
+	d := kit.Divisor(parts[:]...)
 	if min(parts[0], parts[1], parts[2]) < 0 {
 		d = -d
 	}

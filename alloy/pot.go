@@ -109,17 +109,17 @@ func (s stock) weigh(m mixture, total *sums) {
 func (s stock) cost(m mixture) api.Ratio {
 	var total sums
 	s.weigh(m, &total)
-	return ratio(total[priceColumn], total[partsColumn])
+	return kit.Ratio(total[priceColumn], total[partsColumn])
 }
 
 func (s stock) share(m mixture, metal int) api.Ratio {
 	var total sums
 	s.weigh(m, &total)
-	return ratio(m[metal], total[partsColumn])
+	return kit.Ratio(m[metal], total[partsColumn])
 }
 
 func (s stock) cheaper(one, other mixture) bool {
-	return below(s.cost(one), s.cost(other))
+	return kit.Below(s.cost(one), s.cost(other))
 }
 
 // deserves reports whether a mixture deserves the touch.

@@ -99,7 +99,7 @@ func (p pot) proofs() map[api.AlloyProof]int64 {
 		if f == (sums{}) {
 			continue
 		}
-		d := divisor(f[:]...)
+		d := kit.Divisor(f[:]...)
 		for _, proof := range [2]api.AlloyProof{proofOf(f, d), proofOf(f, -d)} {
 			values[proof] = p.value(proof)
 		}

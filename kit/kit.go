@@ -1,4 +1,4 @@
-// Package kit is what the layers have in common: checks of numbers and of lists of them, and choice.
+// Package kit is what the layers have in common: checks of numbers and of lists of them, fractions, all lists, and choice.
 package kit
 
 import (

@@ -5,6 +5,7 @@ import (
 	"slices"
 	"testing"
 
+	"porringer/api"
 	"porringer/kit"
 )
 
@@ -60,5 +61,69 @@ func TestBest(t *testing.T) {
 	}
 	if got, found := kit.Best(slices.Values([]string(nil)), longer); got != "" || found {
 		t.Error(got, found)
+	}
+}
+
+func TestDivisor(t *testing.T) {
+	for i, x := range []struct {
+		numbers []int64
+		want    int64
+	}{
+		{[]int64{12, 18}, 6},
+		{[]int64{-12, 18, 0}, 6},
+		{[]int64{12, -18, 8}, 2},
+		{[]int64{-5}, 5},
+		{[]int64{0, -7}, 7},
+		{[]int64{0, 0}, 1},
+		{nil, 1},
+	} {
+		if got := kit.Divisor(x.numbers...); got != x.want {
+			t.Error(i, got)
+		}
+	}
+}
+
+func TestRatio(t *testing.T) {
+	for i, x := range []struct {
+		num, den int64
+		want     api.Ratio
+	}{
+		{12, 18, api.Ratio{Num: 2, Den: 3}},
+		{-12, 18, api.Ratio{Num: -2, Den: 3}},
+		{0, 18, api.Ratio{Num: 0, Den: 1}},
+		{18, 18, api.Ratio{Num: 1, Den: 1}},
+		{7, 3, api.Ratio{Num: 7, Den: 3}},
+	} {
+		if got := kit.Ratio(x.num, x.den); got != x.want {
+			t.Error(i, got)
+		}
+	}
+}
+
+func TestBelow(t *testing.T) {
+	increasing := []api.Ratio{{Num: -7, Den: 2}, {Num: -1, Den: 3}, {Num: -1, Den: 4}, {Num: 0, Den: 1}, {Num: 2, Den: 3}, {Num: 3, Den: 4}, {Num: 5, Den: 1}}
+	for i, one := range increasing {
+		for j, other := range increasing {
+			if got := kit.Below(one, other); got != (i < j) {
+				t.Error(one, other, got)
+			}
+		}
+	}
+}
+
+func TestLists(t *testing.T) {
+	odd := func(list []int, index int) bool { return len(list) == 0 || (index-list[len(list)-1])%2 == 1 }
+	for most := range 10 {
+		var got [][]int
+		for list := range kit.Lists(4, odd) {
+			if len(got) == most {
+				break
+			}
+			got = append(got, list)
+		}
+		want := [][]int{nil, {0}, {0, 1}, {0, 1, 2}, {0, 1, 2, 3}, {0, 3}, {1}, {1, 2}, {1, 2, 3}}
+		if !slices.EqualFunc(got, want[:most], slices.Equal[[]int]) {
+			t.Error(most, got)
+		}
 	}
 }

@@ -44,7 +44,7 @@ func (d desk) tooFew(shops []int) int {
 // The other shops with wants, and the moulds that those returned want, are a cover. It has as many numbers as there are
 // shops with wants, less the moulds that are too few; so no cover has fewer.
 func (d desk) mostShort() []int {
-	shops, _ := kit.Best(lists(d.Shops, d.wanting), func(one, other []int) bool {
+	shops, _ := kit.Best(kit.Lists(d.Shops, d.wanting), func(one, other []int) bool {
 		return d.tooFew(one) > d.tooFew(other)
 	})
 	return shops

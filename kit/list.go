@@ -1,10 +1,10 @@
-package mould
+package kit
 
 import "iter"
 
-// lists yields, in lexicographic order, all strictly increasing lists of indexes below n of which each one fits those
+// Lists yields, in lexicographic order, all strictly increasing lists of indexes below n of which each one fits those
 // before it.
-func lists(n int, fits func(list []int, index int) bool) iter.Seq[[]int] {
+func Lists(n int, fits func(list []int, index int) bool) iter.Seq[[]int] {
 	return func(yield func([]int) bool) {
 		grow(nil, n, fits, yield)
 	}
@@ -26,8 +26,4 @@ func grow(list []int, n int, fits func(list []int, index int) bool, yield func([
 		}
 	}
 	return true
-}
-
-func longer(one, other []int) bool {
-	return len(one) > len(other)
 }
