@@ -127,3 +127,39 @@ func TestLists(t *testing.T) {
 		}
 	}
 }
+
+func TestListsOfAll(t *testing.T) {
+	got := slices.Collect(kit.Lists(3, func([]int, int) bool { return true }))
+	want := [][]int{nil, {0}, {0, 1}, {0, 1, 2}, {0, 2}, {1}, {1, 2}, {2}}
+	if !slices.EqualFunc(got, want, slices.Equal[[]int]) {
+		t.Error(got)
+	}
+}
+
+func TestGrown(t *testing.T) {
+	ending := func(list []int, number int) bool { return len(list) < 4 && (len(list) == 3 || number != len(list)) }
+	var want [][]int
+	for _, three := range [][]int{{1, 0, 0}, {1, 0, 1}, {1, 2, 0}, {1, 2, 1}, {2, 0, 0}, {2, 0, 1}, {2, 2, 0}, {2, 2, 1}} {
+		for many := range three {
+			if begun := three[:many]; !slices.ContainsFunc(want, func(list []int) bool { return slices.Equal(list, begun) }) {
+				want = append(want, begun)
+			}
+		}
+		want = append(want, three)
+		for number := range 3 {
+			want = append(want, append(slices.Clone(three), number))
+		}
+	}
+	for most := range len(want) + 2 {
+		var got [][]int
+		for list := range kit.Grown(3, ending) {
+			if len(got) == most {
+				break
+			}
+			got = append(got, list)
+		}
+		if !slices.EqualFunc(got, want[:min(most, len(want))], slices.Equal[[]int]) {
+			t.Error(most, got)
+		}
+	}
+}
