@@ -39,3 +39,14 @@ func Best[T any](several iter.Seq[T], better func(one, other T) bool) (T, bool) 
 	}
 	return kept, found
 }
+
+// First returns the first of several that is good, and false if none is.
+func First[T any](several iter.Seq[T], good func(one T) bool) (T, bool) {
+	for one := range several {
+		if good(one) {
+			return one, true
+		}
+	}
+	var none T
+	return none, false
+}

@@ -64,6 +64,23 @@ func TestBest(t *testing.T) {
 	}
 }
 
+func TestFirst(t *testing.T) {
+	asked := 0
+	long := func(one string) bool {
+		asked++
+		return len(one) > 1
+	}
+	if got, found := kit.First(slices.Values([]string{"a", "bb", "c", "dd"}), long); got != "bb" || !found || asked != 2 {
+		t.Error(got, found, asked)
+	}
+	if got, found := kit.First(slices.Values([]string{"a", "c"}), long); got != "" || found {
+		t.Error(got, found)
+	}
+	if got, found := kit.First(slices.Values([]string(nil)), long); got != "" || found {
+		t.Error(got, found)
+	}
+}
+
 func TestDivisor(t *testing.T) {
 	for i, x := range []struct {
 		numbers []int64
@@ -133,6 +150,22 @@ func TestListsOfAll(t *testing.T) {
 	want := [][]int{nil, {0}, {0, 1}, {0, 1, 2}, {0, 2}, {1}, {1, 2}, {2}}
 	if !slices.EqualFunc(got, want, slices.Equal[[]int]) {
 		t.Error(got)
+	}
+}
+
+func TestLongest(t *testing.T) {
+	for i, x := range []struct {
+		lists [][]int
+		want  []int
+	}{
+		{[][]int{nil, {0}, {1, 2}, {0, 2}, {1}}, []int{1, 2}},
+		{[][]int{{3, 4}, nil, {1, 2, 3}}, []int{1, 2, 3}},
+		{[][]int{nil}, nil},
+		{nil, nil},
+	} {
+		if got := kit.Longest(slices.Values(x.lists)); !slices.Equal(got, x.want) {
+			t.Error(i, got)
+		}
 	}
 }
 

@@ -18,6 +18,12 @@ func Lists(n int, fits func(list []int, index int) bool) iter.Seq[[]int] {
 	})
 }
 
+// Longest returns the first of the longest ones of lists.
+func Longest(lists iter.Seq[[]int]) []int {
+	longest, _ := Best(lists, func(one, other []int) bool { return len(one) > len(other) })
+	return longest
+}
+
 // grow yields a list and all that it begins, and reports whether to go on. Each list has memory of its own.
 func grow(list []int, n int, fits func(list []int, number int) bool, yield func([]int) bool) bool {
 	if !yield(list) {
