@@ -1,6 +1,9 @@
 package blame
 
-import "porringer/api"
+import (
+	"porringer/api"
+	"porringer/kit"
+)
 
 // inns is which inns are marked.
 type inns [api.MaxBlameInns]bool
@@ -20,10 +23,7 @@ func newSet(list []int) set {
 
 // mark makes the set that of another list, whatever it was before.
 func (s *set) mark(list []int) {
-	clear(s.inns[:])
-	for _, inn := range list {
-		s.inns[inn] = true
-	}
+	kit.Mark(s.inns[:], list)
 	s.many = len(list)
 }
 

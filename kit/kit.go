@@ -1,4 +1,4 @@
-// Package kit is what the layers have in common: checks of numbers and of lists of them, fractions, all lists, and choice.
+// Package kit is what the layers have in common: checks of numbers and of lists of them, marks, fractions, all lists, and choice.
 package kit
 
 import (
@@ -26,6 +26,14 @@ func Indexes(list []int, n int) bool {
 		least = index + 1
 	}
 	return true
+}
+
+// Mark marks the indexes of a list, and no others, whatever was marked before.
+func Mark(marks []bool, list []int) {
+	clear(marks)
+	for _, index := range list {
+		marks[index] = true
+	}
 }
 
 // Best returns the first of several than which none is better, and false if there are none.

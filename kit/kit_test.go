@@ -51,6 +51,23 @@ func TestIndexes(t *testing.T) {
 	}
 }
 
+func TestMark(t *testing.T) {
+	for i, x := range []struct {
+		marks []bool
+		list  []int
+		want  []bool
+	}{
+		{make([]bool, 3), []int{0, 2}, []bool{true, false, true}},
+		{[]bool{true, true, false}, []int{1, 2}, []bool{false, true, true}},
+		{[]bool{true, true}, nil, []bool{false, false}},
+		{nil, nil, nil},
+	} {
+		if kit.Mark(x.marks, x.list); !slices.Equal(x.marks, x.want) {
+			t.Error(i, x.marks)
+		}
+	}
+}
+
 func TestBest(t *testing.T) {
 	longer := func(one, other string) bool { return len(one) > len(other) }
 	if got, found := kit.Best(slices.Values([]string{"a", "bb", "c", "dd"}), longer); got != "bb" || !found {
